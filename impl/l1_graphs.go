@@ -35,6 +35,26 @@ func asGraph(list []int) (graph, bool) {
 	return g, true
 }
 
+// asGraphs reads two lists as graphs.
+func asGraphs(first []int, second []int) (graph, graph, bool) {
+	g, okFirst := asGraph(first)
+	h, okSecond := asGraph(second)
+	if !okFirst || !okSecond {
+		return nil, nil, false
+	}
+	return g, h, true
+}
+
+// told returns what a list tells as a graph, and true, or false if it is none.
+func told[T any](list []int, tell func(graph) T) (T, bool) {
+	g, ok := asGraph(list)
+	if !ok {
+		var none T
+		return none, false
+	}
+	return tell(g), true
+}
+
 // graphOf returns the graph of n nodes with a code.
 func graphOf(n int, code int) graph {
 	g := make(graph, n)
@@ -231,11 +251,7 @@ func GraphIn(g []int) bool {
 
 // GraphCode returns the code of a graph, and true. It fails if g is no graph.
 func GraphCode(g []int) (int, bool) {
-	x, ok := asGraph(g)
-	if !ok {
-		return 0, false
-	}
-	return x.code(), true
+	return told(g, graph.code)
 }
 
 // GraphOf returns the graph of n nodes with a code, and true.
@@ -249,31 +265,19 @@ func GraphOf(n int, c int) ([]int, bool) {
 
 // GraphEdges returns the number of edges, and true. It fails if g is no graph.
 func GraphEdges(g []int) (int, bool) {
-	x, ok := asGraph(g)
-	if !ok {
-		return 0, false
-	}
-	return x.size(), true
+	return told(g, graph.size)
 }
 
 // GraphDegrees returns the number of neighbours of each node, in order, and true.
 // It fails if g is no graph.
 func GraphDegrees(g []int) ([]int, bool) {
-	x, ok := asGraph(g)
-	if !ok {
-		return nil, false
-	}
-	return x.degrees(), true
+	return told(g, graph.degrees)
 }
 
 // GraphOther returns the graph in which just the pairs are edges that are none in a graph, and true.
 // It fails if g is no graph.
 func GraphOther(g []int) ([]int, bool) {
-	x, ok := asGraph(g)
-	if !ok {
-		return nil, false
-	}
-	return x.other(), true
+	return told(g, graph.other)
 }
 
 // GraphNamed returns the graph in which the node i is called as the number at the place i of names tells, and true.
@@ -309,9 +313,8 @@ func GraphPart(g []int, set int) ([]int, bool) {
 // GraphJoin returns the graph with the nodes of a graph, and those of a second one called by as many more, without edges between, and true.
 // It fails if one of both is no graph, or if they have more than NodesMax nodes together.
 func GraphJoin(g []int, h []int) ([]int, bool) {
-	x, okG := asGraph(g)
-	y, okH := asGraph(h)
-	if !okG || !okH || len(x)+len(y) > NodesMax {
+	x, y, ok := asGraphs(g, h)
+	if !ok || len(x)+len(y) > NodesMax {
 		return nil, false
 	}
 	return x.beside(y), true

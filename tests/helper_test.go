@@ -2,6 +2,7 @@ package tests
 
 import (
 	"slices"
+	"sync"
 	"testing"
 
 	"loop.example/graphpieces/impl"
@@ -63,6 +64,84 @@ func namings(n int) [][]int {
 		}
 	}
 	return all
+}
+
+// ordered returns all names of n nodes, as lists are compared.
+func ordered(n int) [][]int {
+	all := namings(n)
+	slices.SortFunc(all, slices.Compare)
+	return all
+}
+
+// renamed returns the graph in which each node i is called p[i].
+func renamed(g []int, p []int) []int {
+	h := make([]int, len(g))
+	for i := range g {
+		for j := range g {
+			h[p[i]] |= g[i] >> j & 1 << p[j]
+		}
+	}
+	return h
+}
+
+// codeOf returns the code of a graph by the tests' own list of pairs.
+func codeOf(g []int) int {
+	code := 0
+	for place, pair := range pairOrder[:pairCount(len(g))] {
+		code |= g[pair[0]] >> pair[1] & 1 << place
+	}
+	return code
+}
+
+// class tells of a graph what all graphs that are alike to it have in common.
+type class struct {
+	least int // the least code
+	many  int // how many graphs are alike to it
+	same  int // how many names make it itself
+}
+
+// classes returns, for each number of nodes, the classes of the graphs with the codes
+// 0, 1 and so on. They are found by trying all names, once for all tests.
+var classes = sync.OnceValue(func() [7][]class {
+	var table [7][]class
+	for n := 1; n <= 6; n++ {
+		table[n] = make([]class, codeCount(n))
+		all := namings(n)
+		for code := range table[n] {
+			if table[n][code].many == 0 {
+				g := drawn(n, code)
+				found := map[int]int{}
+				for _, p := range all {
+					found[codeOf(renamed(g, p))]++
+				}
+				for c, times := range found {
+					table[n][c] = class{least: code, many: len(found), same: times}
+				}
+			}
+		}
+	}
+	return table
+})
+
+// classOf returns the class of a graph.
+func classOf(g []int) class {
+	return classes()[len(g)][codeOf(g)]
+}
+
+// leastOnes returns the least codes of all graphs of n nodes in ascending order.
+func leastOnes(n int) []int {
+	var codes []int
+	for code, c := range classes()[n] {
+		if c.least == code {
+			codes = append(codes, code)
+		}
+	}
+	return codes
+}
+
+// otherOf returns the graph of the other pairs by the tests' own list of pairs.
+func otherOf(g []int) []int {
+	return drawn(len(g), codeCount(len(g))-1-codeOf(g))
 }
 
 // backwards returns the names that turn the order of n nodes round.
@@ -252,5 +331,39 @@ func wantGraph(t *testing.T, what string, g []int) {
 	t.Helper()
 	if !isGraph(g) || !impl.GraphIn(g) {
 		t.Fatalf("%s: %v has to be a graph", what, g)
+	}
+}
+
+// marks stand behind the end of the lists that roomy makes.
+var marks = []int{77, 78, 79, 80, 81, 82}
+
+// roomy returns a list with spare capacity, whose spare places hold marks.
+func roomy(list []int) []int {
+	room := append(slices.Clone(list), marks...)
+	return room[:len(list)]
+}
+
+// wantAsBefore checks that a list that roomy made is as it was, with its marks.
+func wantAsBefore(t *testing.T, list []int, want []int) {
+	t.Helper()
+	want = append(slices.Clone(want), marks...)
+	if got := list[:len(want)]; !slices.Equal(got, want) {
+		t.Errorf("an argument was changed to %v, not %v", got, want)
+	}
+}
+
+// wantOwnMemory overwrites what the calls return, up to the capacity, and checks that
+// they return the same again.
+func wantOwnMemory(t *testing.T, calls map[string]func() ([]int, bool)) {
+	t.Helper()
+	for what, call := range calls {
+		first := must(t)(call())
+		want := slices.Clone(first)
+		full := first[:cap(first)]
+		for i := range full {
+			full[i] = -99
+		}
+		again, ok := call()
+		hasList(t, what+" once more", "the same", again, ok, want)
 	}
 }

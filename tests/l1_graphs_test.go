@@ -539,16 +539,10 @@ func TestOneNodeAlone(t *testing.T) {
 	failsList(t, "GraphDrop", one, h, ok)
 }
 
-// roomy returns a list with spare capacity, whose spare places hold marks.
-func roomy(list []int) []int {
-	room := append(slices.Clone(list), 77, 78, 79, 80, 81, 82)
-	return room[:len(list)]
-}
-
 // Results share no memory with arguments, spare capacity counted, and arguments stay as they are.
 func TestGraphMemoryIsNotShared(t *testing.T) {
 	g, h, p := roomy(way4), roomy([]int{2, 1}), roomy([]int{0, 1, 2, 3})
-	calls := map[string]func() ([]int, bool){
+	wantOwnMemory(t, map[string]func() ([]int, bool){
 		"GraphOf":      func() ([]int, bool) { return impl.GraphOf(4, 37) },
 		"GraphDegrees": func() ([]int, bool) { return impl.GraphDegrees(g) },
 		"GraphOther":   func() ([]int, bool) { return impl.GraphOther(g) },
@@ -556,25 +550,12 @@ func TestGraphMemoryIsNotShared(t *testing.T) {
 		"GraphDrop":    func() ([]int, bool) { return impl.GraphDrop(g, 3) },
 		"GraphPart":    func() ([]int, bool) { return impl.GraphPart(g, 15) },
 		"GraphJoin":    func() ([]int, bool) { return impl.GraphJoin(g, h) },
-	}
-	for what, call := range calls {
-		first := must(t)(call())
-		want := slices.Clone(first)
-		full := first[:cap(first)]
-		for i := range full {
-			full[i] = -99
-		}
-		again, ok := call()
-		hasList(t, what+" once more", g, again, ok, want)
-	}
+	})
 	impl.GraphIn(g)
 	impl.GraphCode(g)
 	impl.GraphEdges(g)
 	impl.GraphLinked(g)
-	for _, k := range []struct{ list, want []int }{{g, way4}, {h, []int{2, 1}}, {p, []int{0, 1, 2, 3}}} {
-		want := append(slices.Clone(k.want), 77, 78, 79, 80, 81, 82)
-		if got := k.list[:len(want)]; !slices.Equal(got, want) {
-			t.Errorf("an argument was changed to %v, not %v", got, want)
-		}
-	}
+	wantAsBefore(t, g, way4)
+	wantAsBefore(t, h, []int{2, 1})
+	wantAsBefore(t, p, []int{0, 1, 2, 3})
 }
