@@ -68,6 +68,11 @@ func graphOf(n int, code int) graph {
 	return g
 }
 
+// isCode reports whether a number is the code of a graph of n nodes, n at most NodesMax.
+func isCode(n int, code int) bool {
+	return code >= 0 && code < 1<<(n*(n-1)/2)
+}
+
 // nodesIn returns the nodes of a set, the least one first.
 func nodesIn(set int) iter.Seq[int] {
 	return func(yield func(int) bool) {
@@ -142,6 +147,14 @@ func (g graph) edges() iter.Seq2[int, int] {
 func (g graph) link(a int, b int) {
 	g[a] |= 1 << b
 	g[b] |= 1 << a
+}
+
+// flipped returns the graph in which a pair is an edge just if it is none here.
+func (g graph) flipped(a int, b int) graph {
+	h := slices.Clone(g)
+	h[a] ^= 1 << b
+	h[b] ^= 1 << a
+	return h
 }
 
 // code returns the code, for at most NodesMax nodes.
@@ -257,7 +270,7 @@ func GraphCode(g []int) (int, bool) {
 // GraphOf returns the graph of n nodes with a code, and true.
 // It fails if n is not from 1 to NodesMax, or if there is no such code.
 func GraphOf(n int, c int) ([]int, bool) {
-	if n < 1 || n > NodesMax || c < 0 || c >= 1<<(n*(n-1)/2) {
+	if n < 1 || n > NodesMax || !isCode(n, c) {
 		return nil, false
 	}
 	return graphOf(n, c), true

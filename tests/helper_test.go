@@ -52,6 +52,18 @@ func eachGraph(n int, do func(g []int, code int)) {
 	}
 }
 
+// eachKind calls do for every graph of 1 to 5 nodes, and for each kind of graph of 6
+// nodes with names of three sorts.
+func eachKind(do func(g []int)) {
+	eachGraph(5, func(g []int, _ int) { do(g) })
+	for _, code := range leastOnes(6) {
+		g := drawn(6, code)
+		do(g)
+		do(renamed(g, backwards(6)))
+		do(renamed(g, []int{2, 0, 5, 1, 4, 3}))
+	}
+}
+
 // namings returns all names of n nodes.
 func namings(n int) [][]int {
 	if n == 0 {
