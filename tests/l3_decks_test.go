@@ -416,7 +416,7 @@ func TestPromise23InvalidGraphs(t *testing.T) {
 	}
 }
 
-// Promise 24, as far as chapter 3 can tell: degrees that do not fall.
+// Promise 24: the degrees told by decks do not fall.
 func TestPromise24DegreesOfDecks(t *testing.T) {
 	eachKind(func(g []int) {
 		degrees, ok := impl.DeckDegrees(g)
