@@ -194,6 +194,17 @@ func nodesOf(set int, n int) []int {
 	return nodes
 }
 
+// partOf returns the graph of some nodes, called in their order, taken out pair by pair.
+func partOf(g []int, nodes []int) []int {
+	h := make([]int, len(nodes))
+	for i, a := range nodes {
+		for j, b := range nodes {
+			h[i] |= g[a] >> b & 1 << j
+		}
+	}
+	return h
+}
+
 // isGraph judges a list by the document's words.
 func isGraph(g []int) bool {
 	if len(g) == 0 || len(g) > 6 {

@@ -8,16 +8,9 @@ import (
 	"loop.example/graphpieces/impl"
 )
 
-// dropped returns the graph without a node, taken apart pair by pair.
+// dropped returns the graph without a node.
 func dropped(g []int, v int) []int {
-	kept := nodesOf(1<<len(g)-1-1<<v, len(g))
-	h := make([]int, len(kept))
-	for i, a := range kept {
-		for j, b := range kept {
-			h[i] |= g[a] >> b & 1 << j
-		}
-	}
-	return h
+	return partOf(g, nodesOf(1<<len(g)-1-1<<v, len(g)))
 }
 
 // deckOf finds the deck of a graph of at least two nodes by the table of all graphs.
