@@ -309,6 +309,14 @@ func failsNumber(t *testing.T, what string, arguments any, got int, ok bool) {
 	}
 }
 
+// failsText checks that a result that is a text says that there is none.
+func failsText(t *testing.T, what string, arguments any, got string, ok bool) {
+	t.Helper()
+	if ok || got != "" {
+		t.Errorf("%s of %v: %q, %v; it has to fail", what, arguments, got, ok)
+	}
+}
+
 // hasList checks that a result is a list.
 func hasList(t *testing.T, what string, arguments any, got []int, ok bool, want []int) {
 	t.Helper()
@@ -322,6 +330,14 @@ func hasNumber(t *testing.T, what string, arguments any, got int, ok bool, want 
 	t.Helper()
 	if !ok || got != want {
 		t.Fatalf("%s of %v: %v, %v; it has to be %v", what, arguments, got, ok, want)
+	}
+}
+
+// hasText checks that a result is a text.
+func hasText(t *testing.T, what string, arguments any, got string, ok bool, want string) {
+	t.Helper()
+	if !ok || got != want {
+		t.Fatalf("%s of %v: %q, %v; it has to be %q", what, arguments, got, ok, want)
 	}
 }
 
@@ -346,6 +362,18 @@ func mustNumber(t *testing.T) func(number int, ok bool) int {
 			t.Fatal("a function failed for valid arguments")
 		}
 		return number
+	}
+}
+
+// mustText returns a text that a function has to return with true.
+func mustText(t *testing.T) func(text string, ok bool) string {
+	t.Helper()
+	return func(text string, ok bool) string {
+		t.Helper()
+		if !ok {
+			t.Fatal("a function failed for valid arguments")
+		}
+		return text
 	}
 }
 
